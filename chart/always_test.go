@@ -51,10 +51,20 @@ func mustBeOrderly(t *testing.T, text, events string, rows int) {
 	if a.checkPlace < 0 || a.checkPlace > len(text) {
 		t.Errorf("P1: Check(%q): the place is %d", text, a.checkPlace)
 	}
+	if a.load == OK && a.loadPlace != 0 || a.run == OK && a.runPlace != 0 {
+		t.Errorf("P1: %q, %q: the place beside OK is %d, %d", text, events, a.loadPlace, a.runPlace)
+	}
+	if a.loadPlace < 0 || a.loadPlace > len(text) {
+		t.Errorf("P1: Load(%q): the place is %d", text, a.loadPlace)
+	}
+	if len(events) <= maxEvents && (a.run != a.load || a.runPlace != a.loadPlace) {
+		t.Errorf("P6: Run(%q, %q) answers %d, %d, and Load %d, %d", text, events, a.run, a.runPlace, a.load, a.loadPlace)
+	}
 	if len(events) <= maxEvents && (a.play != a.check || a.playPlace != a.checkPlace) {
 		t.Errorf("P3: Play(%q, %q) answers %d, %d, and Check %d, %d", text, events, a.play, a.playPlace, a.check, a.checkPlace)
 	}
 	callAll("A(B/a>CC/a>A~)", "aaa", 3)
+	callAll("a;1;1:2;0:3;", "aaa", 3)
 	if again := callAll(text, events, rows); again != a {
 		t.Errorf("P1: %q, %q, %d: %v, and then %v", text, events, rows, a, again)
 	}
@@ -72,9 +82,13 @@ func TestAlwaysExtremes(t *testing.T) {
 	}
 }
 
-// edit changes one place of a text.
-func edit(r *rand.Rand, text string) string {
-	const bytes = "ABCDEFGZaabcz01199++--(()))[[]]//&!>>~*** \x00\xff"
+const (
+	chartBytes = "ABCDEFGZaabcz01199++--(()))[[]]//&!>>~*** \x00\xff"
+	tableBytes = "abcz0123459;;;;,,,::::== A\x00\xff"
+)
+
+// edit changes one place of a text, with one of some bytes.
+func edit(r *rand.Rand, text string, bytes string) string {
 	at := r.Intn(len(text) + 1)
 	piece := string(bytes[r.Intn(len(bytes))])
 	switch kind := r.Intn(3); {
@@ -92,7 +106,7 @@ func TestAlwaysChangedCharts(t *testing.T) {
 	for i := 0; i < 30000; i++ {
 		text := sampleCharts[i%len(sampleCharts)]
 		for n := r.Intn(4); n >= 0; n-- {
-			text = edit(r, text)
+			text = edit(r, text, chartBytes)
 		}
 		mustBeOrderly(t, text, "abcdeabcdeabcde"[r.Intn(15):], r.Intn(200)-50)
 		problem, _ := Check(text)
@@ -102,6 +116,23 @@ func TestAlwaysChangedCharts(t *testing.T) {
 		if seen[problem] == 0 {
 			t.Errorf("no text was tried at which Check answers %d", problem)
 		}
+	}
+}
+
+func TestAlwaysChangedTables(t *testing.T) {
+	r := rand.New(rand.NewSource(5))
+	seen := [9]int{}
+	for i := 0; i < 30000; i++ {
+		text := sampleTables[i%len(sampleTables)]
+		for n := r.Intn(4); n >= 0; n-- {
+			text = edit(r, text, tableBytes)
+		}
+		mustBeOrderly(t, text, "abczabczabczabcz"[r.Intn(16):], r.Intn(200)-50)
+		problem, _ := Load(text)
+		seen[problem]++
+	}
+	if seen[OK] == 0 || seen[ErrTable] == 0 {
+		t.Errorf("of the texts tried %d are tables, %d are not", seen[OK], seen[ErrTable])
 	}
 }
 

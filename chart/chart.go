@@ -20,6 +20,8 @@ const (
 	maxChart  = 160
 	maxDepth  = 6
 	maxEvents = 400
+	maxTable  = 600000
+	maxRows   = 99
 )
 
 // Check tells whether a text is a chart (P2).
@@ -51,7 +53,20 @@ func Play(chart string, events string) (string, string, Errno, int) {
 func Compile(chart string, rows int) (string, Errno, int) { return "", 0, 0 }
 
 // Load tells whether a text is a table (P5).
-func Load(table string) (Errno, int) { return 0, 0 }
+func Load(table string) (Errno, int) {
+	_, problem, place := load(table)
+	return problem, place
+}
 
 // Run plays a table (P6, P7).
-func Run(table string, events string) (string, int, Errno, int) { return "", 0, 0, 0 }
+func Run(table string, events string) (string, int, Errno, int) {
+	if len(events) > maxEvents {
+		return "", 0, ErrLong, 0
+	}
+	loaded, problem, place := load(table)
+	if problem != OK {
+		return "", 0, problem, place
+	}
+	out, last := loaded.play(events)
+	return out, last, OK, 0
+}

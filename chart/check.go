@@ -7,10 +7,10 @@ func understand(text string) (plan, Errno, int) {
 		return plan{}, ErrLong, 0
 	}
 	r := reader{text: text}
-	if !r.readChart() {
+	p, ok := r.readChart()
+	if !ok {
 		return plan{}, ErrText, r.at
 	}
-	p := r.plan
 	place := p.firstTooDeep()
 	if place != none {
 		return plan{}, ErrDeep, place

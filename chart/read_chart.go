@@ -1,36 +1,21 @@
 package chart
 
-// A reader goes through a chart's text from the left and never looks beyond
-// the next byte. Where it stops, it has read all bytes with which a chart can
-// begin: so `at` is then the place that ErrText asks for.
-type reader struct {
-	text string
-	at   int
-	plan plan
-}
-
-// next answers 0 at the end, too: that byte stands nowhere in a chart.
-func (r *reader) next() byte {
-	if r.at < len(r.text) {
-		return r.text[r.at]
+// readChart makes a plan of a text; what it answers beside false is no plan.
+func (r *reader) readChart() (plan, bool) {
+	p := plan{}
+	if !r.readState(&p, none, 1) {
+		return p, false
 	}
-	return 0
+	return p, r.at == len(r.text)
 }
 
-func (r *reader) readChart() bool {
-	if !r.readState(none, 1) {
-		return false
-	}
-	return r.at == len(r.text)
-}
-
-func (r *reader) readState(outer int, depth int) bool {
+func (r *reader) readState(p *plan, outer int, depth int) bool {
 	name := r.next()
 	if !isName(name) {
 		return false
 	}
-	s := len(r.plan.states)
-	r.plan.states = append(r.plan.states, state{name: name, place: r.at, depth: depth, outer: outer})
+	s := len(p.states)
+	p.states = append(p.states, state{name: name, place: r.at, depth: depth, outer: outer})
 	r.at++
 	enter, ok := r.readActionsBehind('+')
 	if !ok {
@@ -40,72 +25,62 @@ func (r *reader) readState(outer int, depth int) bool {
 	if !ok {
 		return false
 	}
-	r.plan.states[s].enter = enter
-	r.plan.states[s].leave = leave
-	if !r.readBrackets(s, depth) {
+	p.states[s].enter = enter
+	p.states[s].leave = leave
+	if !r.readBrackets(p, s, depth) {
 		return false
 	}
-	r.plan.states[s].end = len(r.plan.states)
-	return r.readTransitions(s)
+	p.states[s].end = len(p.states)
+	return r.readTransitions(p, s)
 }
 
 // readActionsBehind reads nothing where the sign does not stand.
 func (r *reader) readActionsBehind(sign byte) (string, bool) {
-	if r.next() != sign {
+	if !r.skip(sign) {
 		return "", true
 	}
-	r.at++
 	actions := r.readActions()
 	return actions, actions != ""
 }
 
-func (r *reader) readActions() string {
-	begin := r.at
-	for isAction(r.next()) {
-		r.at++
-	}
-	return r.text[begin:r.at]
-}
-
 // readBrackets reads nothing where the state has no states within it.
-func (r *reader) readBrackets(s int, depth int) bool {
+func (r *reader) readBrackets(p *plan, s int, depth int) bool {
 	switch r.next() {
 	case '(':
-		r.plan.states[s].kind = orState
-		return r.readInner(s, depth, 1, ')')
+		p.states[s].kind = orState
+		return r.readInner(p, s, depth, 1, ')')
 	case '[':
-		r.plan.states[s].kind = andState
-		return r.readInner(s, depth, 2, ']')
+		p.states[s].kind = andState
+		return r.readInner(p, s, depth, 2, ']')
 	}
 	return true
 }
 
-func (r *reader) readInner(s int, depth int, least int, closing byte) bool {
+func (r *reader) readInner(p *plan, s int, depth int, least int, closing byte) bool {
 	r.at++
 	count := 0
 	for isName(r.next()) {
-		if !r.readState(s, depth+1) {
+		if !r.readState(p, s, depth+1) {
 			return false
 		}
 		count++
 	}
-	if count < least || r.next() != closing {
+	if count < least {
 		return false
 	}
-	r.at++
-	return true
+	return r.skip(closing)
 }
 
-func (r *reader) readTransitions(own int) bool {
+func (r *reader) readTransitions(p *plan, own int) bool {
 	for r.next() == '/' {
-		if !r.readTransition(own) {
+		if !r.readTransition(p, own) {
 			return false
 		}
 	}
 	return true
 }
 
-func (r *reader) readTransition(own int) bool {
+func (r *reader) readTransition(p *plan, own int) bool {
 	r.at++
 	event := r.next()
 	if !isEvent(event) {
@@ -116,10 +91,9 @@ func (r *reader) readTransition(own int) bool {
 	if !ok {
 		return false
 	}
-	if r.next() != '>' {
+	if !r.skip('>') {
 		return false
 	}
-	r.at++
 	target, ok := r.readReference()
 	if !ok {
 		return false
@@ -127,7 +101,7 @@ func (r *reader) readTransition(own int) bool {
 	markPlace := r.at
 	mark := r.readMark()
 	actions := r.readActions()
-	r.plan.transitions = append(r.plan.transitions, transition{
+	p.transitions = append(p.transitions, transition{
 		own: own, event: event, conditions: conditions,
 		target: target, mark: mark, markPlace: markPlace, actions: actions,
 	})
@@ -167,7 +141,3 @@ func (r *reader) readMark() byte {
 	r.at++
 	return mark
 }
-
-func isName(b byte) bool   { return 'A' <= b && b <= 'Z' }
-func isEvent(b byte) bool  { return 'a' <= b && b <= 'z' }
-func isAction(b byte) bool { return '0' <= b && b <= '9' }
