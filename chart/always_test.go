@@ -63,6 +63,15 @@ func mustBeOrderly(t *testing.T, text, events string, rows int) {
 	if len(events) <= maxEvents && (a.play != a.check || a.playPlace != a.checkPlace) {
 		t.Errorf("P3: Play(%q, %q) answers %d, %d, and Check %d, %d", text, events, a.play, a.playPlace, a.check, a.checkPlace)
 	}
+	if a.compile == ErrLarge && (a.check != OK || a.compilePlace != 0) || a.compile != ErrLarge && (a.compile != a.check || a.compilePlace != a.checkPlace) {
+		t.Errorf("P4: Compile(%q, %d) answers %d, %d, and Check %d, %d", text, rows, a.compile, a.compilePlace, a.check, a.checkPlace)
+	}
+	if e, place := Load(a.table); a.compile == OK && (e != OK || place != 0 || rows < 1) {
+		t.Errorf("P7: Compile(%q, %d) = %q, and Load of it %d, %d", text, rows, a.table, e, place)
+	}
+	if out, _, _, _ := Run(a.table, events); a.compile == OK && out != a.out {
+		t.Errorf("P7: %q at %q puts out %q, its table %q", text, events, a.out, out)
+	}
 	callAll("A(B/a>CC/a>A~)", "aaa", 3)
 	callAll("a;1;1:2;0:3;", "aaa", 3)
 	if again := callAll(text, events, rows); again != a {

@@ -50,7 +50,20 @@ func Play(chart string, events string) (string, string, Errno, int) {
 }
 
 // Compile makes a table of a chart (P4, P7).
-func Compile(chart string, rows int) (string, Errno, int) { return "", 0, 0 }
+func Compile(chart string, rows int) (string, Errno, int) {
+	read, problem, place := understand(chart)
+	if problem != OK {
+		return "", problem, place
+	}
+	if rows > maxRows {
+		rows = maxRows
+	}
+	table, ok := read.compile(rows)
+	if !ok {
+		return "", ErrLarge, 0
+	}
+	return table, OK, 0
+}
 
 // Load tells whether a text is a table (P5).
 func Load(table string) (Errno, int) {
